@@ -794,7 +794,7 @@ func shardRanges() []fault {
 	for _, n := range []int{-1, 0, 32769, math.MaxInt, math.MinInt} {
 		l = append(l, fault{api.ErrRange, func(d *api.Datagram) { d.Len = n }})
 	}
-	return append(l, fault{api.ErrRange, func(d *api.Datagram) { d.Index = 7 - d.K - d.Index }}) // of Data one of Repair's, and the other way round
+	return append(l, fault{api.ErrRange, func(d *api.Datagram) { d.Index = 7 - d.K - d.Index }}) // where K is 3: of Data's 1 it is Repair's 3, and of Repair's 4 Data's 0
 }
 
 func bodies() []fault {
@@ -824,9 +824,6 @@ func creditRanges() []fault {
 // Where those of several places apply, that of the first place is told.
 func TestTheFirstOfSomeErrors(t *testing.T) {
 	for _, d := range ordinary() {
-		if d.Kind == 2 {
-			d.Index = 3 // so that 7 less K and Index is one of Data's
-		}
 		tellAll(t, d, faults(d.Kind), api.OK)
 	}
 }
@@ -945,7 +942,7 @@ func TestPutOfUnfit(t *testing.T) {
 			for _, x := range place {
 				wrong := d
 				x.set(&wrong)
-				if x.err != api.OK && !(d.Kind == 2 && errorOf(wrong) == api.OK) {
+				if x.err != api.OK {
 					wantUnfit(t, wrong, x.err)
 				}
 			}
